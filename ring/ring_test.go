@@ -263,7 +263,7 @@ func TestAnswersAreNewMemory(t *testing.T) {
 	wantRow(t, r, 5, "c", "d")
 }
 
-// A text that is a piece of a longer one would keep that one, too.
+// Texts that are equal do not tell whether they share memory; where they stand does.
 func TestTextsAreNewMemory(t *testing.T) {
 	long := strings.Repeat("abc", 1000)
 	r := made(t, 2, long[3:6])
