@@ -1,6 +1,7 @@
 package net_test
 
 import (
+	"fmt"
 	"math"
 	"slices"
 	"strings"
@@ -28,6 +29,11 @@ func (l *lot) below(n int) int {
 // message is one from node 0 to node 1 that its id tells apart.
 func message(id int) api.Message {
 	return api.Message{Kind: 1, To: 1, Id: id, Body: "a body"}
+}
+
+// brief tells m without all of a long body.
+func brief(m api.Message) string {
+	return fmt.Sprintf("{%d %d %d %d %.40q}", m.Kind, m.From, m.To, m.Id, m.Body)
 }
 
 // filled is a net of two nodes with the messages 0 to count - 1 under way.
@@ -59,7 +65,7 @@ func wantArrives(t *testing.T, n *net.Net, i int, m api.Message) {
 	t.Helper()
 	got, ok := n.Deliver(i)
 	if got != m || !ok {
-		t.Errorf("Deliver(%d): %.60v and %v, want %.60v", i, got, ok, m)
+		t.Errorf("Deliver(%d): %s and %v, want %s", i, brief(got), ok, brief(m))
 	}
 }
 
@@ -67,7 +73,7 @@ func wantNothing(t *testing.T, n *net.Net, i int) {
 	t.Helper()
 	got, ok := n.Deliver(i)
 	if got != (api.Message{}) || ok {
-		t.Errorf("Deliver(%d): %.60v and %v, want nothing", i, got, ok)
+		t.Errorf("Deliver(%d): %s and %v, want nothing", i, brief(got), ok)
 	}
 }
 
@@ -163,7 +169,7 @@ func TestSendRefuses(t *testing.T) {
 			{Kind: 1, Body: strings.Repeat("x", 1<<20)},
 		} {
 			if n.Send(m) {
-				t.Errorf("of %d nodes, Send(%.60v): true", nodes, m)
+				t.Errorf("of %d nodes, Send(%s): true", nodes, brief(m))
 			}
 			wantWaiting(t, n, 0)
 		}
